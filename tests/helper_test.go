@@ -116,9 +116,46 @@ func somePattern(random *rand.Rand, n int) []int64 {
 }
 
 // somePatterns returns those of someLists that are patterns.
-func somePatterns() [][]int64 {
+func somePatterns() [][]int64 { return patternsAmong(someLists()) }
+
+// joined returns a list, times times one after the other.
+func joined(list []int64, times int) []int64 {
+	whole := []int64{}
+	for range times {
+		whole = append(whole, list...)
+	}
+	return whole
+}
+
+// repeatingPatterns returns patterns that repeat shorter ones, in all ways up to the greatest period.
+func repeatingPatterns() [][]int64 {
 	var patterns [][]int64
-	for _, list := range someLists() {
+	random := rand.New(rand.NewSource(35))
+	for n := 1; n <= impl.MaxPeriod/2; n++ {
+		for times := 2; n*times <= impl.MaxPeriod; times++ {
+			for range 12 {
+				patterns = append(patterns, joined(somePattern(random, n), times))
+			}
+		}
+	}
+	return patterns
+}
+
+// operands returns the lists on which the operations are tried: every fifth of someLists, and patterns that repeat shorter ones.
+func operands() [][]int64 {
+	lists := repeatingPatterns()
+	for i, list := range someLists() {
+		if i%5 == 0 || len(list) < 3 {
+			lists = append(lists, list)
+		}
+	}
+	return lists
+}
+
+// patternsAmong returns those of lists that are patterns.
+func patternsAmong(lists [][]int64) [][]int64 {
+	var patterns [][]int64
+	for _, list := range lists {
 		if isPattern(list) {
 			patterns = append(patterns, list)
 		}

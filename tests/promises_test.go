@@ -36,6 +36,30 @@ func listCalls() []listCall {
 			listCall{"ThrowAt", func(p []int64) []any { n, code := impl.ThrowAt(p, beat); return []any{n, code} }},
 			listCall{"LandsFrom", func(p []int64) []any { n, code := impl.LandsFrom(p, beat); return []any{n, code} }})
 	}
+	return append(calls, operationCalls()...)
+}
+
+// operationCalls returns calls of the functions of chapter 3, with arguments for which lists are often returned unchanged.
+func operationCalls() []listCall {
+	calls := []listCall{
+		{"ReversePattern", func(p []int64) []any { l, code := impl.ReversePattern(p); return []any{l, code} }},
+		{"RootPattern", func(p []int64) []any { l, code := impl.RootPattern(p); return []any{l, code} }},
+		{"CanonicalPattern", func(p []int64) []any { l, code := impl.CanonicalPattern(p); return []any{l, code} }},
+		{"IsSymmetric", func(p []int64) []any { return []any{impl.IsSymmetric(p)} }},
+		{"AlikePatterns", func(p []int64) []any { return []any{impl.AlikePatterns(p, []int64{4, 2, 3})} }},
+		{"AlikePatterns", func(p []int64) []any { return []any{impl.AlikePatterns([]int64{4, 2, 3}, p)} }},
+		{"AlikePatterns", func(p []int64) []any { return []any{impl.AlikePatterns(p, p)} }},
+		{"SwapLandings", func(p []int64) []any { l, code := impl.SwapLandings(p, 0, 0); return []any{l, code} }},
+		{"SwapLandings", func(p []int64) []any { l, code := impl.SwapLandings(p, 0, 2); return []any{l, code} }},
+		{"DualPattern", func(p []int64) []any { l, code := impl.DualPattern(p, impl.MaxThrow); return []any{l, code} }},
+	}
+	for _, number := range []int64{0, 1, 2, -1, farthest, -farthest, math.MinInt64, math.MaxInt64} {
+		calls = append(calls,
+			listCall{"RotatePattern", func(p []int64) []any { l, code := impl.RotatePattern(p, number); return []any{l, code} }},
+			listCall{"RaiseThrow", func(p []int64) []any { l, code := impl.RaiseThrow(p, number); return []any{l, code} }},
+			listCall{"ShiftThrows", func(p []int64) []any { l, code := impl.ShiftThrows(p, number); return []any{l, code} }},
+			listCall{"RepeatPattern", func(p []int64) []any { l, code := impl.RepeatPattern(p, number); return []any{l, code} }})
+	}
 	return calls
 }
 
@@ -66,8 +90,9 @@ func spoil(values []any) {
 // Promise 1: arguments stay as they are, results are new memory, and equal arguments have equal results.
 func TestPromise1Lists(t *testing.T) {
 	lists := append(someLists(), repeated(3, 100000), repeated(math.MaxInt64, 13))
+	lists = append(lists, repeatingPatterns()...)
 	for i, list := range lists {
-		if i > 100 && i < 5000 && i%7 != 0 { // most of the short lists are alike
+		if i > 100 && i < 10000 && i%7 != 0 { // most of the short lists are alike
 			continue
 		}
 		for _, c := range listCalls() {
@@ -177,5 +202,61 @@ func TestPromise2Texts(t *testing.T) {
 		again, ok := impl.ReadPattern(text)
 		same(t, "ReadPattern of "+text, results(again, ok), results(p, true))
 		same(t, "PatternText", impl.PatternText(again), text)
+	}
+}
+
+// Promise 3: rotating there and back changes nothing.
+func TestPromise3Rotating(t *testing.T) {
+	for _, p := range patternsAmong(operands()) {
+		for _, by := range []int64{0, 1, 2, 3, 5, 7, 11, 12, 13, 999999, farthest, -1, -2, -farthest} {
+			there, one := impl.RotatePattern(p, by)
+			back, two := impl.RotatePattern(there, -by)
+			same(t, "RotatePattern there and back", results(p, by, back, one, two), results(p, by, p, impl.OK, impl.OK))
+		}
+	}
+}
+
+// Promise 3: reversing twice changes nothing.
+func TestPromise3Reversing(t *testing.T) {
+	for _, p := range patternsAmong(operands()) {
+		once, one := impl.ReversePattern(p)
+		twice, two := impl.ReversePattern(once)
+		same(t, "ReversePattern twice", results(p, twice, one, two), results(p, p, impl.OK, impl.OK))
+	}
+}
+
+// Promise 3: swapping twice changes nothing, in either order of the throws.
+func TestPromise3Swapping(t *testing.T) {
+	for _, p := range patternsAmong(operands()) {
+		for i := range int64(len(p)) {
+			for k := range int64(len(p)) {
+				once, code := impl.SwapLandings(p, i, k)
+				if code != impl.OK {
+					continue
+				}
+				twice, one := impl.SwapLandings(once, i, k)
+				other, two := impl.SwapLandings(once, k, i)
+				same(t, "SwapLandings twice", results(p, i, k, twice, one, other, two), results(p, i, k, p, impl.OK, p, impl.OK))
+			}
+		}
+	}
+}
+
+// Promise 3: canonical patterns are the same for all rotations, and for all repetitions of them.
+func TestPromise3Canonical(t *testing.T) {
+	for _, p := range patternsAmong(operands()) {
+		want, code := impl.CanonicalPattern(p)
+		same(t, "CanonicalPattern", results(p, code), results(p, impl.OK))
+		again, code := impl.CanonicalPattern(want)
+		same(t, "CanonicalPattern twice", results(p, again, code), results(p, want, impl.OK))
+		for by := range int64(len(p)) {
+			turned, _ := impl.RotatePattern(p, by)
+			for times := int64(1); times*int64(len(p)) <= impl.MaxPeriod; times++ {
+				longer, one := impl.RepeatPattern(turned, times)
+				got, two := impl.CanonicalPattern(longer)
+				same(t, "CanonicalPattern of a rotation", results(longer, got, one, two), results(longer, want, impl.OK, impl.OK))
+				same(t, "AlikePatterns of a rotation", results(p, longer, impl.AlikePatterns(p, longer)), results(p, longer, true))
+			}
+		}
 	}
 }
