@@ -29,6 +29,8 @@ func results(values ...any) []any {
 			values[i] = append([]int64{}, x...)
 		case []string:
 			values[i] = append([]string{}, x...)
+		case impl.Multi:
+			values[i] = multi(x.Beats...)
 		case int: // an untyped constant of the package
 			values[i] = int64(x)
 		}

@@ -36,7 +36,10 @@ func listCalls() []listCall {
 			listCall{"ThrowAt", func(p []int64) []any { n, code := impl.ThrowAt(p, beat); return []any{n, code} }},
 			listCall{"LandsFrom", func(p []int64) []any { n, code := impl.LandsFrom(p, beat); return []any{n, code} }})
 	}
-	return append(calls, operationCalls()...)
+	calls = append(calls, operationCalls()...)
+	return append(calls,
+		listCall{"MultiOf", func(p []int64) []any { m, code := impl.MultiOf(p); return []any{m, code} }},
+		listCall{"SortBeat", func(p []int64) []any { l, code := impl.SortBeat(p); return []any{l, code} }})
 }
 
 // operationCalls returns calls of the functions of chapter 3, with arguments for which lists are often returned unchanged.
@@ -83,6 +86,13 @@ func spoil(values []any) {
 			for i := range x[:cap(x)] {
 				x[:cap(x)][i] = "spoilt"
 			}
+		case impl.Multi:
+			for _, beat := range x.Beats {
+				spoil([]any{beat})
+			}
+			for i := range x.Beats[:cap(x.Beats)] {
+				x.Beats[:cap(x.Beats)][i] = []int64{guard + 1}
+			}
 		}
 	}
 }
@@ -98,30 +108,40 @@ func TestPromise1Lists(t *testing.T) {
 		for _, c := range listCalls() {
 			p, whole := guarded(list)
 			_, before := guarded(list)
-			first := c.call(p)
-			want := results(c.call(slices.Clone(list))...)
-			if !slices.Equal(whole, before) {
-				t.Fatalf("%s modifies its argument %v", c.name, list)
-			}
-			same(t, c.name+" for equal arguments", results(slices.Clone(first)...), want)
-			second := c.call(p)
-			spoil(first)
-			if !slices.Equal(whole, before) {
-				t.Fatalf("%s returns memory of its argument %v", c.name, list)
-			}
-			same(t, c.name+" after its first result was overwritten", results(second...), want)
-			same(t, c.name+" called once more", results(c.call(p)...), want)
+			keepsMemoryApart(t, c.name, list,
+				func() []any { return c.call(p) },
+				func() []any { return c.call(slices.Clone(list)) },
+				func() bool { return slices.Equal(whole, before) })
 		}
 	}
 }
 
+// keepsMemoryApart checks a call and the same call with a copy of its argument; intact tells whether the argument and what lies around it is as it was.
+func keepsMemoryApart(t *testing.T, name string, argument any, call, callWithCopy func() []any, intact func() bool) {
+	t.Helper()
+	first := call()
+	want := results(callWithCopy()...)
+	if !intact() {
+		t.Fatalf("%s modifies its argument %v", name, argument)
+	}
+	same(t, name+" for equal arguments", results(slices.Clone(first)...), want)
+	second := call()
+	spoil(first)
+	if !intact() {
+		t.Fatalf("%s returns memory of its argument %v", name, argument)
+	}
+	same(t, name+" after its first result was overwritten", results(second...), want)
+	same(t, name+" called once more", results(call()...), want)
+}
+
 // Promise 1: the results of functions with texts and numbers are new and equal too.
 func TestPromise1Texts(t *testing.T) {
-	texts := []string{"", " ", "531", "543", "shower-3", "-12", "1 2  3", "333333333333", "\xff \xfe", "\t", strings.Repeat("3 ", 50000), strings.Repeat("f", 100000)}
+	texts := []string{"", " ", "531", "543", "shower-3", "-12", "1 2  3", "333333333333", "[43]23", "24[54]", "43", "[22]0", strings.Repeat("[f111]", 12), strings.Repeat("[", 100000), "\xff \xfe", "\t", strings.Repeat("3 ", 50000), strings.Repeat("f", 100000)}
 	call := func(s string) []any {
 		p, ok := impl.ReadPattern(s)
 		n, is := impl.ReadDecimal(s)
-		return []any{p, ok, n, is, impl.SplitWords(s), impl.IsName(s)}
+		m, one := impl.ReadMulti(s)
+		return []any{p, ok, n, is, impl.SplitWords(s), impl.IsName(s), m, one}
 	}
 	for _, s := range texts {
 		first := call(s)
@@ -137,28 +157,19 @@ func TestPromise1Texts(t *testing.T) {
 	}
 }
 
-// Promise 1: a result does not depend on calls before it or at the same time.
-func TestPromise1AtTheSameTime(t *testing.T) {
-	patterns := somePatterns()
-	call := func(p []int64) []any {
-		var all []any
-		for _, c := range listCalls() {
-			all = append(all, results(c.call(p)...)...)
-		}
-		return all
-	}
-	patterns = patterns[:min(len(patterns), 400)]
-	want := make([][]any, len(patterns))
-	for i, p := range patterns {
-		want[i] = call(p)
+// sameAtTheSameTime compares the results of calls at the same time, in several orders, with those of calls one after the other.
+func sameAtTheSameTime[T any](t *testing.T, list []T, call func(T) []any) {
+	want := make([][]any, len(list))
+	for i, argument := range list {
+		want[i] = call(argument)
 	}
 	var group sync.WaitGroup
 	wrong := make([]int, 4)
 	for worker := range wrong {
 		group.Go(func() {
-			for i := range patterns {
-				at := (i*7 + worker*100) % len(patterns)
-				if !reflect.DeepEqual(call(patterns[at]), want[at]) {
+			for i := range list {
+				at := (i*7 + worker*100) % len(list)
+				if !reflect.DeepEqual(call(list[at]), want[at]) {
 					wrong[worker]++
 				}
 			}
@@ -166,6 +177,18 @@ func TestPromise1AtTheSameTime(t *testing.T) {
 	}
 	group.Wait()
 	same(t, "wrong results", wrong, make([]int, 4))
+}
+
+// Promise 1: a result does not depend on calls before it or at the same time.
+func TestPromise1AtTheSameTime(t *testing.T) {
+	patterns := somePatterns()
+	sameAtTheSameTime(t, patterns[:min(len(patterns), 400)], func(p []int64) []any {
+		var all []any
+		for _, c := range listCalls() {
+			all = append(all, results(c.call(p)...)...)
+		}
+		return all
+	})
 }
 
 // Promise 2: the landings of a pattern are all beats of a period.
@@ -258,5 +281,172 @@ func TestPromise3Canonical(t *testing.T) {
 				same(t, "AlikePatterns of a rotation", results(p, longer, impl.AlikePatterns(p, longer)), results(p, longer, true))
 			}
 		}
+	}
+}
+
+// multiCall is a call of a function with a Multi as its only list.
+type multiCall struct {
+	name string
+	call func(m impl.Multi) []any
+}
+
+// multiCalls returns calls of the functions of chapter 4, with arguments for which beats are often returned unchanged.
+func multiCalls() []multiCall {
+	calls := []multiCall{
+		{"ValidMulti", func(m impl.Multi) []any { return []any{impl.ValidMulti(m)} }},
+		{"SameMulti", func(m impl.Multi) []any { return []any{impl.SameMulti(m, m), impl.SameMulti(m, beats("[43]23"))} }},
+		{"SingleOf", func(m impl.Multi) []any { p, code := impl.SingleOf(m); return []any{p, code} }},
+		{"MultiProps", func(m impl.Multi) []any { n, code := impl.MultiProps(m); return []any{n, code} }},
+		{"MultiLandings", func(m impl.Multi) []any { l, code := impl.MultiLandings(m); return []any{l, code} }},
+		{"MultiText", func(m impl.Multi) []any { return []any{impl.MultiText(m)} }},
+		{"AddMulti", func(m impl.Multi) []any { sum, code := impl.AddMulti(m, m); return []any{sum, code} }},
+	}
+	for _, by := range []int64{0, 1, -1, 3, math.MinInt64, math.MaxInt64} {
+		calls = append(calls, multiCall{"RotateMulti", func(m impl.Multi) []any { turned, code := impl.RotateMulti(m, by); return []any{turned, code} }})
+	}
+	for _, throw := range []string{"0", "1"} {
+		calls = append(calls,
+			multiCall{"AddMulti", func(m impl.Multi) []any { sum, code := impl.AddMulti(m, likeBeats(m, throw)); return []any{sum, code} }},
+			multiCall{"AddMulti", func(m impl.Multi) []any { sum, code := impl.AddMulti(likeBeats(m, throw), m); return []any{sum, code} }})
+	}
+	return calls
+}
+
+// likeBeats returns a Multi with the same throw at each of as many beats as m has.
+func likeBeats(m impl.Multi, throw string) impl.Multi {
+	return beats(strings.Repeat(throw, len(m.Beats)))
+}
+
+// guardedMulti returns a copy of a Multi in which every list is the middle of a longer one, and all these longer lists.
+func guardedMulti(m impl.Multi) (impl.Multi, [][]int64) {
+	outer := [][]int64{{guard}, {guard}}
+	wholes := [][]int64{}
+	for _, beat := range m.Beats {
+		inner, whole := guarded(beat)
+		outer = append(outer, inner)
+		wholes = append(wholes, whole)
+	}
+	outer = append(outer, []int64{guard}, []int64{guard})
+	return impl.Multi{Beats: outer[2 : 2+len(m.Beats)]}, append(outer, wholes...)
+}
+
+// Promise 1: the beats of an argument and their unused capacity stay as they are, results are new memory, and equal arguments have equal results.
+func TestPromise1Multis(t *testing.T) {
+	list := append(someMultis(), multi(make([][]int64, 1000)...), multi(repeated(3, 100000)))
+	for i, given := range list {
+		if i > 100 && i < 4000 && i%5 != 0 { // most of the short ones are alike
+			continue
+		}
+		for _, c := range multiCalls() {
+			m, wholes := guardedMulti(given)
+			_, before := guardedMulti(given)
+			keepsMemoryApart(t, c.name, given,
+				func() []any { return c.call(m) },
+				func() []any { return c.call(multi(given.Beats...)) },
+				func() bool { return reflect.DeepEqual(wholes, before) })
+		}
+	}
+}
+
+// Promise 1: no two beats of a result share memory, not even unused capacity.
+func TestPromise1BeatsOfOneResult(t *testing.T) {
+	apart := func(name string, m impl.Multi) {
+		for i := range m.Beats {
+			want := multi(m.Beats...)
+			want.Beats[i] = nil
+			spoil([]any{m.Beats[i]})
+			m.Beats[i] = nil
+			same(t, name+" after one beat was overwritten", results(m), results(want))
+		}
+	}
+	for _, m := range validMultis() {
+		for _, by := range []int64{0, 1, -1} {
+			turned, _ := impl.RotateMulti(m, by)
+			apart("RotateMulti", turned)
+		}
+		sum, _ := impl.AddMulti(m, m)
+		apart("AddMulti", sum)
+		sum, _ = impl.AddMulti(m, likeBeats(m, "0"))
+		apart("AddMulti", sum)
+		read, _ := impl.ReadMulti(wantMultiText(m))
+		apart("ReadMulti", read)
+	}
+	for _, p := range patternsAmong(operands()) {
+		single, _ := impl.MultiOf(p)
+		apart("MultiOf", single)
+	}
+}
+
+// Promise 1: a result does not depend on calls with other patterns before it or at the same time.
+func TestPromise1MultisAtTheSameTime(t *testing.T) {
+	list := validMultis()
+	sameAtTheSameTime(t, list[max(0, len(list)-400):], func(m impl.Multi) []any {
+		var all []any
+		for _, c := range multiCalls() {
+			all = append(all, results(c.call(m)...)...)
+		}
+		read, ok := impl.ReadMulti(wantMultiText(m))
+		return append(all, results(read, ok)...)
+	})
+}
+
+// Promise 4: patterns that are juggled at once have the props of both.
+func TestPromise4Props(t *testing.T) {
+	added := 0
+	eachPair(func(a, b impl.Multi) {
+		sum, code := impl.AddMulti(a, b)
+		if code != impl.OK {
+			return
+		}
+		added++
+		of, one := impl.MultiProps(a)
+		and, two := impl.MultiProps(b)
+		all, three := impl.MultiProps(sum)
+		sameMulti(t, "MultiProps of both at once", sum, results(all, one, two, three), results(of+and, impl.OK, impl.OK, impl.OK))
+		sameMulti(t, "sum of both at once", sum, wantSum(sum), wantSum(a)+wantSum(b))
+	})
+	if added < 1000 {
+		t.Errorf("only %d pairs were juggled at once", added)
+	}
+}
+
+// Promise 4: at each beat, as many props land as of both, and they are a valid pattern again, whichever of both is the first.
+func TestPromise4Landings(t *testing.T) {
+	eachPair(func(a, b impl.Multi) {
+		sum, code := impl.AddMulti(a, b)
+		other, again := impl.AddMulti(b, a)
+		sameMulti(t, "AddMulti of both in the other order", sum, results(other, again), results(sum, code))
+		if code != impl.OK {
+			return
+		}
+		sameMulti(t, "ValidMulti of both at once", sum, results(impl.ValidMulti(sum), isMulti(sum)), results(true, true))
+		want := wantLandings(a)
+		for i, more := range wantLandings(b) {
+			want[i] += more
+		}
+		landings, code := impl.MultiLandings(sum)
+		sameMulti(t, "MultiLandings of both at once", sum, results(landings, code), results(want, impl.OK))
+	})
+}
+
+// Promise 4: patterns of one throw at each beat have the props of both, too, and a pattern without props adds nothing.
+func TestPromise4Patterns(t *testing.T) {
+	patterns := patternsAmong(operands())
+	for i, p := range patterns {
+		a, one := impl.MultiOf(p)
+		props, _ := impl.PropsOf(p)
+		got, two := impl.MultiProps(a)
+		same(t, "MultiProps of a pattern", results(p, got, one, two), results(p, props, impl.OK, impl.OK))
+		still, code := impl.AddMulti(a, likeBeats(a, "0"))
+		same(t, "AddMulti of a pattern and none", results(p, still, code), results(p, a, impl.OK))
+		q := patterns[(i+1)%len(patterns)]
+		if len(p) != len(q) {
+			continue
+		}
+		b, _ := impl.MultiOf(q)
+		more, _ := impl.PropsOf(q)
+		sum, one := impl.AddMulti(a, b)
+		got, two = impl.MultiProps(sum)
+		same(t, "MultiProps of two patterns at once", results(p, q, got, one, two), results(p, q, props+more, impl.OK, impl.OK))
 	}
 }
