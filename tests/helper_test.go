@@ -31,6 +31,8 @@ func results(values ...any) []any {
 			values[i] = append([]string{}, x...)
 		case impl.Multi:
 			values[i] = multi(x.Beats...)
+		case []impl.SyncBeat:
+			values[i] = append([]impl.SyncBeat{}, x...)
 		case int: // an untyped constant of the package
 			values[i] = int64(x)
 		}
@@ -74,6 +76,30 @@ func eachList(n int, low, high int64, do func(list []int64)) {
 		}
 	}
 	fill(0)
+}
+
+// eachText calls do with every text of at most longest of some characters.
+func eachText(characters string, longest int, do func(s string)) {
+	for n := range longest + 1 {
+		text := make([]byte, n)
+		eachList(n, 0, int64(len(characters))-1, func(list []int64) {
+			for i, character := range list {
+				text[i] = characters[character]
+			}
+			do(string(text))
+		})
+	}
+}
+
+// eachChange calls do, times times, with a text into which one of some characters is put, in which it replaces another one, and from which one is taken away.
+func eachChange(random *rand.Rand, text, characters string, times int, do func(s string)) {
+	for range times {
+		at := random.Intn(len(text))
+		character := string(characters[random.Intn(len(characters))])
+		do(text[:at] + character + text[at:])
+		do(text[:at] + character + text[at+1:])
+		do(text[:at] + text[at+1:])
+	}
 }
 
 // someLists returns all short lists, and lists of each period up to one beyond the greatest, many of

@@ -337,31 +337,15 @@ func TestReadMulti(t *testing.T) {
 }
 
 func TestReadMultiOfShortTexts(t *testing.T) {
-	signs := "[]0123"
-	for n := range 8 {
-		text := make([]byte, n)
-		eachList(n, 0, int64(len(signs))-1, func(list []int64) {
-			for i, sign := range list {
-				text[i] = signs[sign]
-			}
-			wantRead(t, string(text))
-		})
-	}
+	eachText("[]0123", 7, func(s string) { wantRead(t, s) })
 }
 
 func TestReadMultiOfChangedTexts(t *testing.T) {
 	random := rand.New(rand.NewSource(7))
-	signs := "[]0123456789abcdefg xF\x80"
 	for _, m := range validMultis() {
 		text := wantMultiText(m)
 		wantRead(t, text)
-		for range 5 {
-			at := random.Intn(len(text))
-			sign := string(signs[random.Intn(len(signs))])
-			wantRead(t, text[:at]+sign+text[at:])
-			wantRead(t, text[:at]+sign+text[at+1:])
-			wantRead(t, text[:at]+text[at+1:])
-		}
+		eachChange(random, text, "[]0123456789abcdefg xF\x80", 5, func(s string) { wantRead(t, s) })
 	}
 }
 

@@ -13,6 +13,8 @@ import (
 
 const guard = -77777
 
+var guardBeat = impl.SyncBeat{Left: impl.SyncThrow{Value: guard, Cross: true}, Right: impl.SyncThrow{Value: guard}}
+
 // listCall is a call of a function with a list as its only list.
 type listCall struct {
 	name string
@@ -39,7 +41,8 @@ func listCalls() []listCall {
 	calls = append(calls, operationCalls()...)
 	return append(calls,
 		listCall{"MultiOf", func(p []int64) []any { m, code := impl.MultiOf(p); return []any{m, code} }},
-		listCall{"SortBeat", func(p []int64) []any { l, code := impl.SortBeat(p); return []any{l, code} }})
+		listCall{"SortBeat", func(p []int64) []any { l, code := impl.SortBeat(p); return []any{l, code} }},
+		listCall{"PairUp", func(p []int64) []any { l, code := impl.PairUp(p); return []any{l, code} }})
 }
 
 // operationCalls returns calls of the functions of chapter 3, with arguments for which lists are often returned unchanged.
@@ -93,6 +96,10 @@ func spoil(values []any) {
 			for i := range x.Beats[:cap(x.Beats)] {
 				x.Beats[:cap(x.Beats)][i] = []int64{guard + 1}
 			}
+		case []impl.SyncBeat:
+			for i := range x[:cap(x)] {
+				x[:cap(x)][i] = guardBeat
+			}
 		}
 	}
 }
@@ -136,12 +143,13 @@ func keepsMemoryApart(t *testing.T, name string, argument any, call, callWithCop
 
 // Promise 1: the results of functions with texts and numbers are new and equal too.
 func TestPromise1Texts(t *testing.T) {
-	texts := []string{"", " ", "531", "543", "shower-3", "-12", "1 2  3", "333333333333", "[43]23", "24[54]", "43", "[22]0", strings.Repeat("[f111]", 12), strings.Repeat("[", 100000), "\xff \xfe", "\t", strings.Repeat("3 ", 50000), strings.Repeat("f", 100000)}
+	texts := []string{"", " ", "531", "543", "shower-3", "-12", "1 2  3", "(4,2x)*", "(4,2x)(2x,4)", "(4,2x)", "(2x,4x)", "(ex,ex)(ex,ex)(ex,ex)*", "333333333333", "[43]23", "24[54]", "43", "[22]0", strings.Repeat("[f111]", 12), strings.Repeat("[", 100000), "\xff \xfe", "\t", strings.Repeat("3 ", 50000), strings.Repeat("f", 100000)}
 	call := func(s string) []any {
 		p, ok := impl.ReadPattern(s)
 		n, is := impl.ReadDecimal(s)
 		m, one := impl.ReadMulti(s)
-		return []any{p, ok, n, is, impl.SplitWords(s), impl.IsName(s), m, one}
+		beats, two := impl.ReadSync(s)
+		return []any{p, ok, n, is, impl.SplitWords(s), impl.IsName(s), m, one, beats, two}
 	}
 	for _, s := range texts {
 		first := call(s)
@@ -448,5 +456,142 @@ func TestPromise4Patterns(t *testing.T) {
 		sum, one := impl.AddMulti(a, b)
 		got, two = impl.MultiProps(sum)
 		same(t, "MultiProps of two patterns at once", results(p, q, got, one, two), results(p, q, props+more, impl.OK, impl.OK))
+	}
+}
+
+// syncCall is a call of a function with a list of beats as its only list.
+type syncCall struct {
+	name string
+	call func(p []impl.SyncBeat) []any
+}
+
+// syncCalls returns calls of the functions of chapter 5 with lists of beats.
+func syncCalls() []syncCall {
+	return []syncCall{
+		{"ValidSync", func(p []impl.SyncBeat) []any { return []any{impl.ValidSync(p)} }},
+		{"SameSync", func(p []impl.SyncBeat) []any { return []any{impl.SameSync(p, p), impl.SameSync(p, elements("(4,4)"))} }},
+		{"SyncClash", func(p []impl.SyncBeat) []any { i, k, code := impl.SyncClash(p); return []any{i, k, code} }},
+		{"SyncProps", func(p []impl.SyncBeat) []any { n, code := impl.SyncProps(p); return []any{n, code} }},
+		{"CrossCount", func(p []impl.SyncBeat) []any { n, code := impl.CrossCount(p); return []any{n, code} }},
+		{"MirrorSync", func(p []impl.SyncBeat) []any { l, code := impl.MirrorSync(p); return []any{l, code} }},
+		{"StarSync", func(p []impl.SyncBeat) []any { l, code := impl.StarSync(p); return []any{l, code} }},
+		{"SlideSync", func(p []impl.SyncBeat) []any { l, code := impl.SlideSync(p); return []any{l, code} }},
+		{"SyncText", func(p []impl.SyncBeat) []any { return []any{impl.SyncText(p)} }},
+	}
+}
+
+// guardedSync returns a copy of a list of beats as the middle of a longer one, with room for its mirror image, and this one.
+func guardedSync(p []impl.SyncBeat) ([]impl.SyncBeat, []impl.SyncBeat) {
+	whole := []impl.SyncBeat{guardBeat, guardBeat}
+	whole = append(whole, p...)
+	for range len(p) + 2 {
+		whole = append(whole, guardBeat)
+	}
+	return whole[2 : 2+len(p)], whole
+}
+
+// Promise 1: lists of beats and their unused capacity stay as they are, results are new memory, and equal arguments have equal results.
+func TestPromise1Syncs(t *testing.T) {
+	for _, list := range append(someSyncs(), notBeatLists()...) {
+		for _, c := range syncCalls() {
+			p, whole := guardedSync(list)
+			_, before := guardedSync(list)
+			keepsMemoryApart(t, c.name, list,
+				func() []any { return c.call(p) },
+				func() []any { return c.call(slices.Clone(list)) },
+				func() bool { return slices.Equal(whole, before) })
+		}
+	}
+}
+
+// Promise 1: a result does not depend on calls with other lists of beats before it or at the same time.
+func TestPromise1SyncsAtTheSameTime(t *testing.T) {
+	list := validSyncs()
+	sameAtTheSameTime(t, list[max(0, len(list)-400):], func(p []impl.SyncBeat) []any {
+		var all []any
+		for _, c := range syncCalls() {
+			all = append(all, results(c.call(p)...)...)
+		}
+		read, ok := impl.ReadSync(wantSyncText(p))
+		paired, code := impl.PairUp(wantSlid(p))
+		return append(all, results(read, ok, paired, code)...)
+	})
+}
+
+// Promise 5: a synchronous pattern slides to a pattern with as many props, and pairing it up leads back.
+func TestPromise5Sliding(t *testing.T) {
+	crossing := 0
+	for _, p := range validSyncs() {
+		slid, one := impl.SlideSync(p)
+		props, two := impl.SyncProps(p)
+		same(t, "codes of "+wantSyncText(p), results(one, two), results(impl.OK, impl.OK))
+		same(t, "ValidPattern of SlideSync", results(slid, impl.ValidPattern(slid), isPattern(slid)), results(slid, true, true))
+		got, code := impl.PropsOf(slid)
+		sameSync(t, "PropsOf of SlideSync", p, results(got, code), results(props, impl.OK))
+		back, code := impl.PairUp(slid)
+		sameSync(t, "PairUp of SlideSync", p, results(back, code, impl.SameSync(back, p)), results(p, impl.OK, true))
+		if count, _ := impl.CrossCount(p); count > 2 {
+			crossing++
+		}
+	}
+	if crossing < 500 {
+		t.Errorf("only %d patterns have several crossing throws of both hands", crossing)
+	}
+}
+
+// Promise 5: what is paired up slides back, and as often as it was repeated, with as many props.
+func TestPromise5Pairing(t *testing.T) {
+	paired := 0
+	for _, p := range append(repeatingPatterns(), somePatterns()...) {
+		beats, code := impl.PairUp(p)
+		if code != impl.OK {
+			continue
+		}
+		paired++
+		slid, one := impl.SlideSync(beats)
+		same(t, "SlideSync of PairUp", results(slid, one), results(joined(p, 1+len(p)%2), impl.OK))
+		props, two := impl.SyncProps(beats)
+		want, three := impl.PropsOf(p)
+		same(t, "SyncProps of PairUp", results(p, props, two, three), results(p, want, impl.OK, impl.OK))
+		same(t, "ValidSync of PairUp", results(p, impl.ValidSync(beats), isSync(beats)), results(p, true, true))
+	}
+	if paired < 500 {
+		t.Errorf("only %d patterns were paired up", paired)
+	}
+}
+
+// Promise 5: as many throws cross from the left as from the right, so that those one beat longer and those one beat shorter even out.
+func TestPromise5Crossing(t *testing.T) {
+	for _, p := range validSyncs() {
+		left, right := int64(0), int64(0)
+		slid, _ := impl.SlideSync(p)
+		for i, beat := range p {
+			if beat.Left.Cross {
+				left++
+				slid[2*i]--
+			}
+			if beat.Right.Cross {
+				right++
+				slid[2*i+1]++
+			}
+			same(t, "throws of "+wantSyncText(p), results(slid[2*i], slid[2*i+1]), results(beat.Left.Value, beat.Right.Value))
+		}
+		count, code := impl.CrossCount(p)
+		sameSync(t, "CrossCount", p, results(left, count, code), results(right, left+right, impl.OK))
+	}
+}
+
+// Promise 5: a pattern and its mirror image have as many props and crossing throws, and mirroring twice changes nothing; patterns are restored from their texts.
+func TestPromise5MirrorsAndTexts(t *testing.T) {
+	for _, p := range validSyncs() {
+		mirror, _ := impl.MirrorSync(p)
+		props, one := impl.SyncProps(mirror)
+		crosses, two := impl.CrossCount(mirror)
+		again, three := impl.MirrorSync(mirror)
+		wantProps, _ := impl.SyncProps(p)
+		wantCrosses, _ := impl.CrossCount(p)
+		sameSync(t, "MirrorSync", p, results(props, one, crosses, two, again, three), results(wantProps, impl.OK, wantCrosses, impl.OK, p, impl.OK))
+		read, ok := impl.ReadSync(impl.SyncText(p))
+		sameSync(t, "ReadSync of SyncText", p, results(read, ok), results(p, true))
 	}
 }
