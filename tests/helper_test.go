@@ -33,6 +33,10 @@ func results(values ...any) []any {
 			values[i] = multi(x.Beats...)
 		case []impl.SyncBeat:
 			values[i] = append([]impl.SyncBeat{}, x...)
+		case impl.Passing:
+			values[i] = passing(x.A, x.B)
+		case impl.Notation:
+			values[i] = notation(x)
 		case int: // an untyped constant of the package
 			values[i] = int64(x)
 		}
@@ -181,14 +185,17 @@ func operands() [][]int64 {
 }
 
 // patternsAmong returns those of lists that are patterns.
-func patternsAmong(lists [][]int64) [][]int64 {
-	var patterns [][]int64
-	for _, list := range lists {
-		if isPattern(list) {
-			patterns = append(patterns, list)
+func patternsAmong(lists [][]int64) [][]int64 { return among(lists, isPattern) }
+
+// among returns those elements of a list that are as they should be.
+func among[T any](list []T, is func(T) bool) []T {
+	var some []T
+	for _, element := range list {
+		if is(element) {
+			some = append(some, element)
 		}
 	}
-	return patterns
+	return some
 }
 
 // isListOfThrows is the definition of chapter 2.

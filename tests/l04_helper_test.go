@@ -238,15 +238,7 @@ var someMultis = sync.OnceValue(func() []impl.Multi {
 })
 
 // validMultis returns those of someMultis that are valid.
-var validMultis = sync.OnceValue(func() []impl.Multi {
-	var list []impl.Multi
-	for _, m := range someMultis() {
-		if isMulti(m) {
-			list = append(list, m)
-		}
-	}
-	return list
-})
+var validMultis = sync.OnceValue(func() []impl.Multi { return among(someMultis(), isMulti) })
 
 // notMultis are not valid, each for a reason of its own.
 func notMultis() []impl.Multi {

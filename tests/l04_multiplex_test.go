@@ -292,8 +292,11 @@ func eachPair(do func(a, b impl.Multi)) {
 	}
 }
 
-// isMultiText reports whether a text is that of a valid Multi: each group has several throws.
-func isMultiText(s string) bool {
+// isMultiText reports whether a text is that of a valid Multi.
+func isMultiText(s string) bool { return isFormOfMulti(s) && isMulti(beats(s)) }
+
+// isFormOfMulti reports whether a text is that of beats as told in chapter 4, wherever props land: each group has several throws.
+func isFormOfMulti(s string) bool {
 	if !parsedBeats.MatchString(s) {
 		return false
 	}
@@ -302,7 +305,12 @@ func isMultiText(s string) bool {
 			return false
 		}
 	}
-	return isMulti(beats(s))
+	for _, beat := range beats(s).Beats {
+		if !isBeat(beat) {
+			return false
+		}
+	}
+	return len(beats(s).Beats) >= 1 && len(beats(s).Beats) <= 12
 }
 
 // wantRead compares the result of ReadMulti with what the definition says.

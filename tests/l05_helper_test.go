@@ -290,15 +290,7 @@ var someSyncs = sync.OnceValue(func() [][]impl.SyncBeat {
 })
 
 // validSyncs returns those of someSyncs that are synchronous patterns.
-var validSyncs = sync.OnceValue(func() [][]impl.SyncBeat {
-	var list [][]impl.SyncBeat
-	for _, p := range someSyncs() {
-		if isSync(p) {
-			list = append(list, p)
-		}
-	}
-	return list
-})
+var validSyncs = sync.OnceValue(func() [][]impl.SyncBeat { return among(someSyncs(), isSync) })
 
 // notBeatLists are no lists of beats, each for a reason of its own.
 func notBeatLists() [][]impl.SyncBeat {

@@ -15,6 +15,8 @@ const guard = -77777
 
 var guardBeat = impl.SyncBeat{Left: impl.SyncThrow{Value: guard, Cross: true}, Right: impl.SyncThrow{Value: guard}}
 
+var guardThrow = impl.PassThrow{Value: guard, Pass: true}
+
 // listCall is a call of a function with a list as its only list.
 type listCall struct {
 	name string
@@ -42,7 +44,10 @@ func listCalls() []listCall {
 	return append(calls,
 		listCall{"MultiOf", func(p []int64) []any { m, code := impl.MultiOf(p); return []any{m, code} }},
 		listCall{"SortBeat", func(p []int64) []any { l, code := impl.SortBeat(p); return []any{l, code} }},
-		listCall{"PairUp", func(p []int64) []any { l, code := impl.PairUp(p); return []any{l, code} }})
+		listCall{"PairUp", func(p []int64) []any { l, code := impl.PairUp(p); return []any{l, code} }},
+		listCall{"TogetherOf", func(p []int64) []any { both, code := impl.TogetherOf(p, p); return []any{both, code} }},
+		listCall{"TogetherOf", func(p []int64) []any { both, code := impl.TogetherOf(p, []int64{4, 2, 3}); return []any{both, code} }},
+		listCall{"TogetherOf", func(p []int64) []any { both, code := impl.TogetherOf([]int64{4, 2, 3}, p); return []any{both, code} }})
 }
 
 // operationCalls returns calls of the functions of chapter 3, with arguments for which lists are often returned unchanged.
@@ -100,6 +105,14 @@ func spoil(values []any) {
 			for i := range x[:cap(x)] {
 				x[:cap(x)][i] = guardBeat
 			}
+		case []impl.PassThrow:
+			for i := range x[:cap(x)] {
+				x[:cap(x)][i] = guardThrow
+			}
+		case impl.Passing:
+			spoil([]any{x.A, x.B})
+		case impl.Notation:
+			spoil([]any{x.Pattern, x.Multi, x.Sync, x.Passing})
 		}
 	}
 }
@@ -143,13 +156,16 @@ func keepsMemoryApart(t *testing.T, name string, argument any, call, callWithCop
 
 // Promise 1: the results of functions with texts and numbers are new and equal too.
 func TestPromise1Texts(t *testing.T) {
-	texts := []string{"", " ", "531", "543", "shower-3", "-12", "1 2  3", "(4,2x)*", "(4,2x)(2x,4)", "(4,2x)", "(2x,4x)", "(ex,ex)(ex,ex)(ex,ex)*", "333333333333", "[43]23", "24[54]", "43", "[22]0", strings.Repeat("[f111]", 12), strings.Repeat("[", 100000), "\xff \xfe", "\t", strings.Repeat("3 ", 50000), strings.Repeat("f", 100000)}
+	texts := []string{"", " ", "531", "543", "shower-3", "-12", "1 2  3", "(4,2x)*", "(4,2x)(2x,4)", "(4,2x)", "(2x,4x)", "(ex,ex)(ex,ex)(ex,ex)*", "333333333333", "[43]23", "<3p 3|3p 3>", "<3|3>", "<3p|3>", "<3 3|3>", "<0p|3>", "53 1", "432", strings.Repeat("<", 200), strings.Repeat("3", 201), "24[54]", "43", "[22]0", strings.Repeat("[f111]", 12), strings.Repeat("[", 100000), "\xff \xfe", "\t", strings.Repeat("3 ", 50000), strings.Repeat("f", 100000)}
 	call := func(s string) []any {
 		p, ok := impl.ReadPattern(s)
 		n, is := impl.ReadDecimal(s)
 		m, one := impl.ReadMulti(s)
 		beats, two := impl.ReadSync(s)
-		return []any{p, ok, n, is, impl.SplitWords(s), impl.IsName(s), m, one, beats, two}
+		both, three := impl.ReadPassing(s)
+		note, four := impl.ReadNotation(s)
+		fault, at := impl.NotationFault(s)
+		return []any{p, ok, n, is, impl.SplitWords(s), impl.IsName(s), m, one, beats, two, both, three, note, four, fault, at, impl.KindOfText(s)}
 	}
 	for _, s := range texts {
 		first := call(s)
@@ -161,6 +177,7 @@ func TestPromise1Texts(t *testing.T) {
 	}
 	for _, n := range oddNumbers() {
 		same(t, "CodeName", impl.CodeName(n), impl.CodeName(n))
+		same(t, "NoteName and FaultName", results(impl.NoteName(n), impl.FaultName(n)), results(impl.NoteName(n), impl.FaultName(n)))
 		same(t, "Decimal", impl.Decimal(n), impl.Decimal(n))
 	}
 }
