@@ -35,6 +35,8 @@ func results(values ...any) []any {
 			values[i] = append([]impl.SyncBeat{}, x...)
 		case impl.Passing:
 			values[i] = passing(x.A, x.B)
+		case []impl.State:
+			values[i] = append([]impl.State{}, x...)
 		case impl.Notation:
 			values[i] = notation(x)
 		case int: // an untyped constant of the package
