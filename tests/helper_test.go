@@ -37,6 +37,8 @@ func results(values ...any) []any {
 			values[i] = passing(x.A, x.B)
 		case []impl.State:
 			values[i] = append([]impl.State{}, x...)
+		case []impl.Arc:
+			values[i] = append([]impl.Arc{}, x...)
 		case impl.Notation:
 			values[i] = notation(x)
 		case int: // an untyped constant of the package

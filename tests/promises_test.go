@@ -19,6 +19,8 @@ var guardThrow = impl.PassThrow{Value: guard, Pass: true}
 
 var guardState = impl.State{Height: guard, Mask: guard}
 
+var guardArc = impl.Arc{From: guard, Throw: guard, To: guard}
+
 // listCall is a call of a function with a list as its only list.
 type listCall struct {
 	name string
@@ -117,6 +119,10 @@ func spoil(values []any) {
 		case []impl.State:
 			for i := range x[:cap(x)] {
 				x[:cap(x)][i] = guardState
+			}
+		case []impl.Arc:
+			for i := range x[:cap(x)] {
+				x[:cap(x)][i] = guardArc
 			}
 		case impl.Notation:
 			spoil([]any{x.Pattern, x.Multi, x.Sync, x.Passing})
