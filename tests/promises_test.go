@@ -46,6 +46,7 @@ func listCalls() []listCall {
 	}
 	calls = append(calls, operationCalls()...)
 	calls = append(calls, stateCalls()...)
+	calls = append(calls, transitionCalls()...)
 	return append(calls,
 		listCall{"MultiOf", func(p []int64) []any { m, code := impl.MultiOf(p); return []any{m, code} }},
 		listCall{"SortBeat", func(p []int64) []any { l, code := impl.SortBeat(p); return []any{l, code} }},
