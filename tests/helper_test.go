@@ -29,6 +29,8 @@ func results(values ...any) []any {
 			values[i] = append([]int64{}, x...)
 		case []string:
 			values[i] = append([]string{}, x...)
+		case [][]int64:
+			values[i] = copies(x)
 		case impl.Multi:
 			values[i] = multi(x.Beats...)
 		case []impl.SyncBeat:
@@ -46,6 +48,24 @@ func results(values ...any) []any {
 		}
 	}
 	return values
+}
+
+// copies returns copies of some lists.
+func copies(some [][]int64) [][]int64 {
+	all := [][]int64{}
+	for _, list := range some {
+		all = append(all, append([]int64{}, list...))
+	}
+	return all
+}
+
+// listsOf returns the lists of throws of some texts.
+func listsOf(digits ...string) [][]int64 {
+	all := [][]int64{}
+	for _, text := range digits {
+		all = append(all, throws(text))
+	}
+	return all
 }
 
 // throws returns the throws of a text of digits, whether or not they are a pattern.

@@ -47,6 +47,7 @@ func listCalls() []listCall {
 	calls = append(calls, operationCalls()...)
 	calls = append(calls, stateCalls()...)
 	calls = append(calls, transitionCalls()...)
+	calls = append(calls, primeCalls()...)
 	return append(calls,
 		listCall{"MultiOf", func(p []int64) []any { m, code := impl.MultiOf(p); return []any{m, code} }},
 		listCall{"SortBeat", func(p []int64) []any { l, code := impl.SortBeat(p); return []any{l, code} }},
@@ -99,6 +100,13 @@ func spoil(values []any) {
 		case []string:
 			for i := range x[:cap(x)] {
 				x[:cap(x)][i] = "spoilt"
+			}
+		case [][]int64:
+			for _, list := range x {
+				spoil([]any{list})
+			}
+			for i := range x[:cap(x)] {
+				x[:cap(x)][i] = []int64{guard + 1}
 			}
 		case impl.Multi:
 			for _, beat := range x.Beats {
