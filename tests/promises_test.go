@@ -48,6 +48,7 @@ func listCalls() []listCall {
 	calls = append(calls, stateCalls()...)
 	calls = append(calls, transitionCalls()...)
 	calls = append(calls, primeCalls()...)
+	calls = append(calls, orbitCalls()...)
 	return append(calls,
 		listCall{"MultiOf", func(p []int64) []any { m, code := impl.MultiOf(p); return []any{m, code} }},
 		listCall{"SortBeat", func(p []int64) []any { l, code := impl.SortBeat(p); return []any{l, code} }},
