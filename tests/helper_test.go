@@ -41,6 +41,8 @@ func results(values ...any) []any {
 			values[i] = append([]impl.State{}, x...)
 		case []impl.Arc:
 			values[i] = append([]impl.Arc{}, x...)
+		case []impl.HandThrow:
+			values[i] = append([]impl.HandThrow{}, x...)
 		case impl.Notation:
 			values[i] = notation(x)
 		case int: // an untyped constant of the package

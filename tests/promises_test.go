@@ -21,6 +21,8 @@ var guardState = impl.State{Height: guard, Mask: guard}
 
 var guardArc = impl.Arc{From: guard, Throw: guard, To: guard}
 
+var guardHandThrow = impl.HandThrow{Beat: guard, Value: guard, From: guard, To: guard}
+
 // listCall is a call of a function with a list as its only list.
 type listCall struct {
 	name string
@@ -49,6 +51,7 @@ func listCalls() []listCall {
 	calls = append(calls, transitionCalls()...)
 	calls = append(calls, primeCalls()...)
 	calls = append(calls, orbitCalls()...)
+	calls = append(calls, handCalls()...)
 	return append(calls,
 		listCall{"MultiOf", func(p []int64) []any { m, code := impl.MultiOf(p); return []any{m, code} }},
 		listCall{"SortBeat", func(p []int64) []any { l, code := impl.SortBeat(p); return []any{l, code} }},
@@ -134,6 +137,10 @@ func spoil(values []any) {
 			for i := range x[:cap(x)] {
 				x[:cap(x)][i] = guardArc
 			}
+		case []impl.HandThrow:
+			for i := range x[:cap(x)] {
+				x[:cap(x)][i] = guardHandThrow
+			}
 		case impl.Notation:
 			spoil([]any{x.Pattern, x.Multi, x.Sync, x.Passing})
 		}
@@ -179,7 +186,7 @@ func keepsMemoryApart(t *testing.T, name string, argument any, call, callWithCop
 
 // Promise 1: the results of functions with texts and numbers are new and equal too.
 func TestPromise1Texts(t *testing.T) {
-	texts := []string{"", " ", "531", "543", "shower-3", "-12", "1 2  3", "(4,2x)*", "(4,2x)(2x,4)", "(4,2x)", "(2x,4x)", "(ex,ex)(ex,ex)(ex,ex)*", "333333333333", "[43]23", "<3p 3|3p 3>", "<3|3>", "<3p|3>", "<3 3|3>", "<0p|3>", "53 1", "432", strings.Repeat("<", 200), strings.Repeat("3", 201), "24[54]", "43", "[22]0", strings.Repeat("[f111]", 12), strings.Repeat("[", 100000), "\xff \xfe", "\t", "11100", "0", "1111111111", "00000000000", "102", strings.Repeat("3 ", 50000), strings.Repeat("f", 100000)}
+	texts := []string{"", " ", "531", "543", "shower-3", "-12", "1 2  3", "(4,2x)*", "(4,2x)(2x,4)", "(4,2x)", "(2x,4x)", "(ex,ex)(ex,ex)(ex,ex)*", "333333333333", "[43]23", "<3p 3|3p 3>", "<3|3>", "<3p|3>", "<3 3|3>", "<0p|3>", "53 1", "432", strings.Repeat("<", 200), strings.Repeat("3", 201), "24[54]", "43", "[22]0", strings.Repeat("[f111]", 12), strings.Repeat("[", 100000), "\xff \xfe", "\t", "11100", "0", "1111111111", "00000000000", "102", "ab", "dcbaabcdabcd", "ac", strings.Repeat("3 ", 50000), strings.Repeat("f", 100000)}
 	call := func(s string) []any {
 		p, ok := impl.ReadPattern(s)
 		n, is := impl.ReadDecimal(s)
@@ -189,7 +196,8 @@ func TestPromise1Texts(t *testing.T) {
 		note, four := impl.ReadNotation(s)
 		fault, at := impl.NotationFault(s)
 		state, five := impl.ReadState(s)
-		return []any{p, ok, n, is, impl.SplitWords(s), impl.IsName(s), m, one, beats, two, both, three, note, four, fault, at, impl.KindOfText(s), state, five}
+		order, six := impl.ReadHands(s)
+		return []any{p, ok, n, is, impl.SplitWords(s), impl.IsName(s), m, one, beats, two, both, three, note, four, fault, at, impl.KindOfText(s), state, five, order, six}
 	}
 	for _, s := range texts {
 		first := call(s)
