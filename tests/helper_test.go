@@ -43,6 +43,8 @@ func results(values ...any) []any {
 			values[i] = append([]impl.Arc{}, x...)
 		case []impl.HandThrow:
 			values[i] = append([]impl.HandThrow{}, x...)
+		case []impl.Hold:
+			values[i] = append([]impl.Hold{}, x...)
 		case impl.Notation:
 			values[i] = notation(x)
 		case int: // an untyped constant of the package

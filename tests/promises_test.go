@@ -23,6 +23,8 @@ var guardArc = impl.Arc{From: guard, Throw: guard, To: guard}
 
 var guardHandThrow = impl.HandThrow{Beat: guard, Value: guard, From: guard, To: guard}
 
+var guardHold = impl.Hold{Hand: guard, Beat: guard, From: guard, To: guard}
+
 // listCall is a call of a function with a list as its only list.
 type listCall struct {
 	name string
@@ -52,6 +54,7 @@ func listCalls() []listCall {
 	calls = append(calls, primeCalls()...)
 	calls = append(calls, orbitCalls()...)
 	calls = append(calls, handCalls()...)
+	calls = append(calls, timingCalls()...)
 	return append(calls,
 		listCall{"MultiOf", func(p []int64) []any { m, code := impl.MultiOf(p); return []any{m, code} }},
 		listCall{"SortBeat", func(p []int64) []any { l, code := impl.SortBeat(p); return []any{l, code} }},
@@ -140,6 +143,10 @@ func spoil(values []any) {
 		case []impl.HandThrow:
 			for i := range x[:cap(x)] {
 				x[:cap(x)][i] = guardHandThrow
+			}
+		case []impl.Hold:
+			for i := range x[:cap(x)] {
+				x[:cap(x)][i] = guardHold
 			}
 		case impl.Notation:
 			spoil([]any{x.Pattern, x.Multi, x.Sync, x.Passing})
